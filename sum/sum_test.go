@@ -7,19 +7,9 @@ import (
 	"testing"
 
 	"pollard/api"
+	"pollard/sample"
 	"pollard/sum"
 )
-
-// text is n bytes of all values, that do not come again soon.
-func text(n int) string {
-	b := make([]byte, n)
-	x := uint32(n)*2654435761 + 1
-	for i := range b {
-		x = x*1664525 + 1013904223
-		b[i] = byte(x >> 24)
-	}
-	return string(b)
-}
 
 // want is the sum by the library's own SHA-256.
 func want(t string) string {
@@ -53,18 +43,18 @@ func TestOfKnown(t *testing.T) {
 // Promise 1.1: every length around the ends of blocks, and some long ones.
 func TestOfLengths(t *testing.T) {
 	for n := range 400 {
-		check(t, "all values", sum.Of(text(n)), want(text(n)))
+		check(t, "all values", sum.Of(sample.Text(n)), want(sample.Text(n)))
 		check(t, "noughts", sum.Of(strings.Repeat("\x00", n)), want(strings.Repeat("\x00", n)))
 		check(t, "ones", sum.Of(strings.Repeat("\xff", n)), want(strings.Repeat("\xff", n)))
 	}
 	for _, n := range []int{1 << 12, 1<<16 - 1, 1<<20 + 55, 1<<22 + 56} {
-		check(t, "long", sum.Of(text(n)), want(text(n)))
+		check(t, "long", sum.Of(sample.Text(n)), want(sample.Text(n)))
 	}
 }
 
 // Promise 1.1: one byte less or otherwise is another sum.
 func TestOfOneByte(t *testing.T) {
-	whole := text(130)
+	whole := sample.Text(130)
 	seen := map[string]int{sum.Of(whole): -1}
 	for i := range whole {
 		changed := whole[:i] + string([]byte{whole[i] ^ 1}) + whole[i+1:]
@@ -79,7 +69,7 @@ func TestOfOneByte(t *testing.T) {
 
 // Promise 1.1: twins are unlike texts of one sum; nobody knows any.
 func TestTwin(t *testing.T) {
-	long := text(1000)
+	long := sample.Text(1000)
 	for _, c := range []api.Twins{
 		{},
 		{One: "a", Other: "a"},
@@ -114,7 +104,7 @@ func TestNothing(t *testing.T) {
 
 // Promise 1.2: pieces of every size make up the same text.
 func TestPieces(t *testing.T) {
-	whole := text(321)
+	whole := sample.Text(321)
 	for size := 1; size <= len(whole); size++ {
 		s := sum.New()
 		for at := 0; at < len(whole); at += size {
@@ -139,7 +129,7 @@ func TestSumBetween(t *testing.T) {
 		for i := range 40 {
 			check(t, "so far", s.Sum(), want(all))
 			check(t, "asked again", s.Sum(), want(all))
-			piece := text(size + i)
+			piece := sample.Text(size + i)
 			s.Write(piece)
 			all += piece
 		}
@@ -170,7 +160,7 @@ func TestApart(t *testing.T) {
 }
 
 func BenchmarkOf(b *testing.B) {
-	t := text(1 << 20)
+	t := sample.Text(1 << 20)
 	b.SetBytes(int64(len(t)))
 	for range b.N {
 		sum.Of(t)
