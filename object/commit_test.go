@@ -35,17 +35,23 @@ func TestCommitParents(t *testing.T) {
 	}
 }
 
-// Promise 7.2: more than MostParents, which comes ahead of what else is wrong with a commit.
+// Promise 7.2: more than MostParents, which comes ahead of what else is wrong with a commit; in a body, ids of another length are of another form, which comes ahead of it.
 func TestCommitMuch(t *testing.T) {
 	for _, n := range []int{api.MostParents + 1, api.MostParents + 2, 1000} {
 		c := ordinary(n)
 		wantNoCommit(t, c, api.ErrMuch)
 		wantNoCommitRead(t, commitBody(c), api.ErrMuch)
-		for _, spoil := range commitFaults() {
+		for _, spoil := range otherCommitFaults() {
 			c := ordinary(n)
 			spoil(&c)
 			wantNoCommit(t, c, api.ErrMuch)
 			wantNoCommitRead(t, commitBody(c), api.ErrMuch)
+		}
+		for _, spoil := range commitIDFaults() {
+			c := ordinary(n)
+			spoil(&c)
+			wantNoCommit(t, c, api.ErrMuch)
+			wantNoCommitRead(t, commitBody(c), api.ErrBad)
 		}
 		wantNoCommit(t, api.Commit{Parents: make([]string, n)}, api.ErrMuch)
 	}
@@ -56,12 +62,18 @@ func TestCommitMuch(t *testing.T) {
 	}
 }
 
-// commitFaults are things that are wrong in a commit of one parent or more.
-func commitFaults() []func(c *api.Commit) {
+// commitIDFaults are ids of another length in a commit of one parent or more.
+func commitIDFaults() []func(c *api.Commit) {
 	return []func(c *api.Commit){
 		func(c *api.Commit) { c.Tree = "t" },
 		func(c *api.Commit) { c.Parents[0] = "" },
 		func(c *api.Commit) { c.Parents[len(c.Parents)-1] = idOf('p')[1:] },
+	}
+}
+
+// otherCommitFaults are things that are wrong in a commit of one parent or more, beside its ids' length.
+func otherCommitFaults() []func(c *api.Commit) {
+	return []func(c *api.Commit){
 		func(c *api.Commit) { c.Parents = append(c.Parents, c.Parents[0]) },
 		func(c *api.Commit) { c.Author = "" },
 		func(c *api.Commit) { c.Text = "\xff" },
@@ -71,8 +83,9 @@ func commitFaults() []func(c *api.Commit) {
 
 // Promise 7.2: each fault alone, and with each other one.
 func TestCommitFaults(t *testing.T) {
-	for _, one := range commitFaults() {
-		for _, other := range commitFaults() {
+	faults := append(commitIDFaults(), otherCommitFaults()...)
+	for _, one := range faults {
+		for _, other := range faults {
 			c := ordinary(1)
 			one(&c)
 			other(&c)
@@ -97,18 +110,22 @@ func TestCommitTwice(t *testing.T) {
 	}
 }
 
-// Promise 7.2: ids of fewer or more bytes than 32, of the tree and of each parent.
+// Promise 7.2: ids of fewer or more bytes than 32, of the tree and of each parent; in a body they are of another form, however many parents there are.
 func TestCommitIDs(t *testing.T) {
 	for _, id := range noIDs() {
-		for n := range api.MostParents + 1 {
+		for n := range 2*api.MostParents + 1 {
+			want := api.ErrBad
+			if n > api.MostParents {
+				want = api.ErrMuch
+			}
 			c := ordinary(n)
 			c.Tree = id
-			wantNoCommit(t, c, api.ErrBad)
+			wantNoCommit(t, c, want)
 			wantNoCommitRead(t, commitBody(c), api.ErrBad)
 			for i := range n {
 				c := ordinary(n)
 				c.Parents[i] = id
-				wantNoCommit(t, c, api.ErrBad)
+				wantNoCommit(t, c, want)
 				wantNoCommitRead(t, commitBody(c), api.ErrBad)
 			}
 		}
@@ -293,6 +310,8 @@ func TestCommitTogether(t *testing.T) {
 	longer("", 4)
 	longer(l[0], 4)
 	longer(l[0]+l[1], 4)
+	longer(l[0]+strings.Repeat(l[1], api.MostParents), 4)
+	longer("tree ab\n"+strings.Repeat(l[1], api.MostParents), 4)
 }
 
 func wantSlowCommit(t *testing.T, body string) {
@@ -315,7 +334,8 @@ func TestCommitHuge(t *testing.T) {
 	head := "tree " + hexOf('t') + "\n"
 	wantNoCommitRead(t, strings.Repeat("a", 1<<22), api.ErrBad)
 	wantNoCommitRead(t, head+strings.Repeat("parent \n", 1<<18), api.ErrBad)
-	wantNoCommitRead(t, head+strings.Repeat("parent \n", 1<<18)+"author a\ntime 0\n\n", api.ErrMuch)
+	wantNoCommitRead(t, head+strings.Repeat("parent \n", 1<<18)+"author a\ntime 0\n\n", api.ErrBad)
+	wantNoCommitRead(t, head+strings.Repeat("parent "+hexOf('p')+"\n", 1<<16)+"author a\ntime 0\n\n", api.ErrMuch)
 	wantNoCommitRead(t, head+"author a\ntime 0\n\n"+strings.Repeat("a", 1<<22), api.ErrBad)
 	wantNoCommitRead(t, head+"author a\ntime "+strings.Repeat("1", 1<<20)+"\n\n", api.ErrBad)
 }

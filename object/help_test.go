@@ -273,7 +273,7 @@ func slowCheckCommit(c api.Commit) api.Errno {
 	return api.OK
 }
 
-var commitForm = regexp.MustCompile(`(?s)^tree ((?:[0-9a-f]{2})*)\n((?:parent (?:[0-9a-f]{2})*\n)*)author ([^\n]*)\ntime ([0-9]*)\n\n(.*)$`)
+var commitForm = regexp.MustCompile(`(?s)^tree ([0-9a-f]{64})\n((?:parent [0-9a-f]{64}\n)*)author ([^\n]*)\ntime ([0-9]*)\n\n(.*)$`)
 
 // slowGetCommit holds a body against its form as a whole.
 func slowGetCommit(body string) (api.Commit, api.Errno) {
@@ -297,7 +297,7 @@ func slowGetCommit(body string) (api.Commit, api.Errno) {
 	return c, api.OK
 }
 
-var tagForm = regexp.MustCompile(`(?s)^object ((?:[0-9a-f]{2})*)\nkind ([^\n]*)\nname ([^\n]*)\n\n(.*)$`)
+var tagForm = regexp.MustCompile(`(?s)^object ([0-9a-f]{64})\nkind (blob|tree|commit|tag)\nname ([^\n]*)\n\n(.*)$`)
 
 // slowGetTag holds a body against its form as a whole.
 func slowGetTag(body string) (api.Tag, api.Errno) {
@@ -307,10 +307,7 @@ func slowGetTag(body string) (api.Tag, api.Errno) {
 	}
 	kind := slices.Index([]string{"blob", "tree", "commit", "tag"}, parts[2]) + 1
 	x := api.Tag{Target: unhex(parts[1]), Kind: kind, Name: parts[3], Text: parts[4]}
-	switch {
-	case kind == 0:
-		return api.Tag{}, api.ErrKind
-	case len(x.Target) != 32 || !label.Ref("tags/"+x.Name) || !slowText(x.Text):
+	if !label.Ref("tags/"+x.Name) || !slowText(x.Text) {
 		return api.Tag{}, api.ErrBad
 	}
 	return x, api.OK

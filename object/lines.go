@@ -31,11 +31,18 @@ func (r *reader) take(word string) string {
 	return told
 }
 
-// takeID is take of bytes that are told by digits, however many: whether they are an id is asked later.
+// takeID is take of an id that is told by its digits. Another number of them is a fault of the form, which is told ahead of what a check finds.
 func (r *reader) takeID(word string) string {
 	id, e := code.Unhex(r.take(word))
-	r.bad = r.bad || e != api.OK
+	r.bad = r.bad || e != api.OK || !mayBeID(id)
 	return id
+}
+
+// takeKind is take of a kind that is told by its word. A word of none is a fault of the form, too.
+func (r *reader) takeKind(word string) int {
+	kind := kindOf(r.take(word))
+	r.bad = r.bad || kind == 0
+	return kind
 }
 
 // takeNumber is take of a number.

@@ -113,7 +113,7 @@ func TestLinksErrors(t *testing.T) {
 	wantNoLinks(t, rawOf("commit", commitBody(ordinary(api.MostParents+1))), api.ErrMuch)
 	x := ordinaryTag()
 	x.Kind = 0
-	wantNoLinks(t, rawOf("tag", tagBody(x)), api.ErrKind)
+	wantNoLinks(t, rawOf("tag", tagBody(x)), api.ErrBad)
 }
 
 // Rule R2: each answer is a list of its own.

@@ -42,8 +42,7 @@ func PutTag(t api.Tag) (string, api.Errno) {
 func GetTag(body string) (api.Tag, api.Errno) {
 	r := reader{rest: body}
 	t := api.Tag{Target: r.takeID(objectWord)}
-	// A word of no kind is no fault of the form: CheckTag has an error for it.
-	t.Kind = kindOf(r.take(kindWord))
+	t.Kind = r.takeKind(kindWord)
 	t.Name = strings.Clone(r.take(nameWord))
 	t.Text = strings.Clone(r.takeText())
 	if r.bad {

@@ -21,7 +21,7 @@ func TestTagKnown(t *testing.T) {
 		"object "+strings.Repeat("01", 32)+"\nkind tag\nname -\n\n\x00")
 }
 
-// Promise 7.2: each kind of a target, and kinds that are none, which come ahead of what else is wrong.
+// Promise 7.2: each kind of a target, and kinds that are none, which come ahead of what else is wrong with a tag; in a body such a kind has no word, so that it is of another form.
 func TestTagKind(t *testing.T) {
 	for kind := range someKinds() {
 		x := ordinaryTag()
@@ -32,6 +32,7 @@ func TestTagKind(t *testing.T) {
 		x := ordinaryTag()
 		x.Kind = kind
 		wantNoTag(t, x, api.ErrKind)
+		wantNoTagRead(t, tagBody(x), api.ErrBad)
 		for _, spoil := range tagFaults() {
 			y := x
 			spoil(&y)
@@ -41,7 +42,7 @@ func TestTagKind(t *testing.T) {
 	wantNoTag(t, api.Tag{}, api.ErrKind)
 }
 
-// Promise 7.2, GetTag: a word that is of no kind is CheckTag's error: ahead of what else may not be, behind the form.
+// Promise 7.2, GetTag: a body with a word that is of no kind is of another form, whatever else is wrong with it.
 func TestTagKindWord(t *testing.T) {
 	for _, word := range noKindWords() {
 		if strings.Contains(word, "\n") {
@@ -52,7 +53,7 @@ func TestTagKindWord(t *testing.T) {
 			x := ordinaryTag()
 			spoil(&x)
 			body := strings.Replace(tagBody(x), "kind commit\n", "kind "+word+"\n", 1)
-			wantNoTagRead(t, body, api.ErrKind)
+			wantNoTagRead(t, body, api.ErrBad)
 			for _, s := range []string{body[1:], strings.Replace(body, "name", "Name", 1), strings.Replace(body, "\n\n", "\n", 1), "object z" + body[8:]} {
 				wantNoTagRead(t, s, api.ErrBad)
 			}
@@ -183,10 +184,7 @@ func TestTagForms(t *testing.T) {
 	for i, s := range l[:3] {
 		bare := s[:len(s)-1]
 		word, told, _ := strings.Cut(bare, " ")
-		forms := []string{" " + s, "\n" + s, "\t" + s, "x" + s, "\x00" + s, bare, word + "\n", word + told + "\n", word + "\t" + told + "\n", word + ": " + told + "\n", strings.ToUpper(word) + " " + told + "\n", word + "s " + told + "\n", word[1:] + " " + told + "\n", s + "more x\n", s + " \n"}
-		if i != 1 { // what stands in the kind's line is a word of no kind
-			forms = append(forms, bare+" \n", bare+"\r\n", bare+"\x00", word+"  "+told+"\n", bare+" "+told+"\n", word+" \n")
-		}
+		forms := []string{" " + s, "\n" + s, "\t" + s, "x" + s, "\x00" + s, bare, word + "\n", word + told + "\n", word + "\t" + told + "\n", word + ": " + told + "\n", strings.ToUpper(word) + " " + told + "\n", word + "s " + told + "\n", word[1:] + " " + told + "\n", s + "more x\n", s + " \n", bare + " \n", bare + "\r\n", bare + "\x00", word + "  " + told + "\n", bare + " " + told + "\n", word + " \n"}
 		if i < 2 { // behind the name an empty line more is the text's
 			forms = append(forms, s+"\n")
 		}
@@ -197,8 +195,8 @@ func TestTagForms(t *testing.T) {
 			wantNoTagRead(t, with(i, form), api.ErrBad)
 		}
 	}
-	for _, form := range []string{"kind  commit\n", "kind commit \n", "kind commit\r\n", "kind 3\n", "kind commit commit\n", "kind \n"} {
-		wantNoTagRead(t, with(1, form), api.ErrKind)
+	for _, form := range []string{"kind 3\n", "kind commits\n", "kind commi\n", "kind Commit\n", "kind blob commit\n", "kind commit\x00\n"} {
+		wantNoTagRead(t, with(1, form), api.ErrBad)
 	}
 	for _, form := range []string{" \n", "\r\n", "\x00\n", "x\n", "x", "\r"} {
 		wantNoTagRead(t, with(3, form), api.ErrBad)
