@@ -30,22 +30,28 @@ func Apply(base, d string, most int) (string, api.Errno) {
 
 // readSizes is how many bytes the text has, and the bytes of the steps.
 func readSizes(base, d string, most int) (int, string, api.Errno) {
-	n, k, e := code.Unnum(d)
+	// Both numbers are read ahead of holding the first one against the base: that the second one can't be read comes first.
+	from, d, e := readNumber(d)
 	if e != api.OK {
 		return 0, "", e
 	}
-	if n != uint64(len(base)) {
+	size, d, e := readNumber(d)
+	if e != api.OK {
+		return 0, "", e
+	}
+	if from != uint64(len(base)) {
 		return 0, "", api.ErrBad
 	}
-	d = d[k:]
-	n, k, e = code.Unnum(d)
-	if e != api.OK {
-		return 0, "", e
-	}
-	if most < 0 || n > uint64(most) {
+	if most < 0 || size > uint64(most) {
 		return 0, "", api.ErrMuch
 	}
-	return int(n), d[k:], api.OK
+	return int(size), d, api.OK
+}
+
+// readNumber is the first number, and the bytes behind it.
+func readNumber(s string) (uint64, string, api.Errno) {
+	n, k, e := code.Unnum(s)
+	return n, s[k:], e
 }
 
 // piecesOf goes over the pieces that steps put together to a text of so many bytes; at an error it ends, with that in place of a piece.
@@ -68,19 +74,29 @@ func piecesOf(base, steps string, size int) iter.Seq2[string, api.Errno] {
 
 // readStep is the piece of the first step, where left are left of the text, and the bytes behind it.
 func readStep(base, s string, left int) (string, string, api.Errno) {
-	n, k, e := code.Unnum(s)
+	n, s, e := readNumber(s)
 	if e != api.OK {
 		return "", "", e
+	}
+	// The place is read ahead of holding the step against what is left: that it can't be read comes first.
+	taken, place := n%2 == 1, uint64(0)
+	if taken {
+		if place, s, e = readNumber(s); e != api.OK {
+			return "", "", e
+		}
 	}
 	// It tells one less than there are, held against what is left ahead of all sums, which could run over.
 	if n/2 >= uint64(left) {
 		return "", "", api.ErrBad
 	}
 	size := int(n/2) + 1
-	if n%2 == 0 {
-		return readPut(s[k:], size)
+	if !taken {
+		return readPut(s, size)
 	}
-	return readTaken(base, s[k:], size)
+	if place > uint64(len(base)) || size > len(base)-int(place) {
+		return "", "", api.ErrBad
+	}
+	return base[place:][:size], s, api.OK
 }
 
 // readPut is bytes that are put, and those behind them.
@@ -89,16 +105,4 @@ func readPut(s string, size int) (string, string, api.Errno) {
 		return "", "", api.ErrEnd
 	}
 	return s[:size], s[size:], api.OK
-}
-
-// readTaken is bytes of the base, from the place on that is told, and the bytes behind that.
-func readTaken(base, s string, size int) (string, string, api.Errno) {
-	place, k, e := code.Unnum(s)
-	if e != api.OK {
-		return "", "", e
-	}
-	if place > uint64(len(base)) || size > len(base)-int(place) {
-		return "", "", api.ErrBad
-	}
-	return base[place:][:size], s[k:], api.OK
 }

@@ -62,17 +62,23 @@ func TestApplyOtherBase(t *testing.T) {
 	}
 }
 
-// Promise 9.1, Apply: another length of the base comes ahead of all that stands behind its number, and behind that number's own error.
+// Promise 9.1, Apply: another length of the base comes ahead of all that stands behind both first numbers, and of a text of more than most; but behind Unnum's errors of these numbers, the text's, too.
 func TestApplyOtherBaseFirst(t *testing.T) {
-	l := []string{"", told(0), told(9), told(great), put("x"), told(1) + put("x") + "more", told(1, 4), told(2, 3, 9)}
-	for bytes := range unnums() {
-		l = append(l, bytes)
+	l := map[string]api.Errno{}
+	for bytes, want := range unnums() {
+		l[bytes] = want
+		l[told(0)+bytes] = api.ErrBad
+		l[told(9)+bytes] = api.ErrBad
 	}
-	for _, behind := range l {
+	for _, behind := range []string{told(0), told(9), told(great), put("x"), told(1) + put("x") + "more", told(1, 4), told(2, 3, 9)} {
+		l[behind] = api.ErrBad
+	}
+	for behind, want := range l {
 		for _, most := range []int{-1 << 63, -1, 0, 1, 5, mostInt} {
-			wantError(t, "abc", told(2)+behind, most, api.ErrBad)
-			wantError(t, "abc", told(4)+behind, most, api.ErrBad)
-			wantError(t, "", told(1)+behind, most, api.ErrBad)
+			for _, n := range []uint64{0, 2, 4, 128, great} {
+				wantError(t, "abc", told(n)+behind, most, want)
+			}
+			wantError(t, "", told(1)+behind, most, want)
 		}
 	}
 	wantError(t, "abc", "", -1, api.ErrEnd)
@@ -116,7 +122,7 @@ func TestApplyMostFirst(t *testing.T) {
 	}
 }
 
-// Promise 9.1, Apply: a step that tells of more than is left of the text, be it put or taken, whatever stands behind its number.
+// Promise 9.1, Apply: a step that tells of more than is left of the text, be it put or taken, whatever stands behind its numbers.
 func TestApplyMoreThanLeft(t *testing.T) {
 	base := fresh(50)
 	for _, ahead := range []string{"", put("xyz"), taken(7, 20), taken(7, 20) + put("xyz")} {
@@ -130,11 +136,12 @@ func TestApplyMoreThanLeft(t *testing.T) {
 				wantError(t, base, front+put(sample.Text(left+more)), 99, api.ErrBad)
 				wantError(t, base, front+taken(0, left+more), 99, api.ErrBad)
 				wantError(t, base, front+taken(0, left+more)+"more", 99, api.ErrBad)
-				// It is bad as soon as the number is known, though bytes are missing, or the place is none.
+				// It is bad though bytes are missing, or the base has none at that place; but not ahead of a place that can't be read.
 				wantError(t, base, front+told(2*(left+more-1)), 99, api.ErrBad)
-				wantError(t, base, front+told(2*(left+more-1)+1), 99, api.ErrBad)
-				wantError(t, base, front+told(2*(left+more-1)+1)+"\x80", 99, api.ErrBad)
 				wantError(t, base, front+told(2*(left+more-1)+1, great), 99, api.ErrBad)
+				for bytes, want := range unnums() {
+					wantError(t, base, front+told(2*(left+more-1)+1)+bytes, 99, want)
+				}
 			}
 		}
 	}
@@ -188,7 +195,11 @@ func TestApplyGreatNumbers(t *testing.T) {
 		wantError(t, base, told(n, 5)+put("abcde"), 9, api.ErrBad)
 		wantError(t, base, told(100, n)+put("abcde"), 9, api.ErrMuch)
 		for _, size := range []int{1, 5, 100} {
-			wantError(t, base, told(100, size, n), size, api.ErrBad)
+			if n%2 == 0 {
+				wantError(t, base, told(100, size, n), size, api.ErrBad)
+			} else {
+				wantError(t, base, told(100, size, n), size, api.ErrEnd)
+			}
 			wantError(t, base, told(100, size, n)+strings.Repeat("a", 300), size, api.ErrBad)
 			wantError(t, base, told(100, size, n, 0), size, api.ErrBad)
 			wantError(t, base, told(100, size, n, n), size, api.ErrBad)

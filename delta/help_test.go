@@ -81,9 +81,9 @@ func slowPlace(base, s string) int {
 	return -1
 }
 
-// slowApply applies by the chapter's words, number by number, byte by byte.
+// slowApply applies by the chapter's words, number by number, byte by byte; what numbers tell is asked when all of the head, or of a step, are read.
 func slowApply(base, d string, most int) (string, api.Errno) {
-	text, size, step := "", uint64(0), uint64(0)
+	text, from, size, step := "", uint64(0), uint64(0), uint64(0)
 	const (
 		atBase = iota
 		atSize
@@ -98,18 +98,18 @@ func slowApply(base, d string, most int) (string, api.Errno) {
 		d = d[k:]
 		left := size - uint64(len(text))
 		switch {
-		case at == atBase && n != uint64(len(base)):
-			return "", api.ErrBad
 		case at == atBase:
-			at = atSize
+			at, from = atSize, n
+		case at == atSize && from != uint64(len(base)):
+			return "", api.ErrBad
 		case at == atSize && (most < 0 || n > uint64(most)):
 			return "", api.ErrMuch
 		case at == atSize:
 			at, size = atStep, n
-		case at == atStep && n/2+1 > left:
-			return "", api.ErrBad
 		case at == atStep && n%2 == 1:
 			at, step = atPlace, n/2+1
+		case at == atStep && n/2+1 > left || at == atPlace && step > left:
+			return "", api.ErrBad
 		case at == atStep && n/2+1 > uint64(len(d)):
 			return "", api.ErrEnd
 		case at == atStep:
