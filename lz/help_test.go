@@ -70,7 +70,7 @@ func slowBack(s string, i int) int {
 	return 0
 }
 
-// slowSpread spreads by the chapter's words, each step of which is here beside what may be wrong with it.
+// slowSpread spreads by the chapter's words, each step of which is here beside what may be wrong with it; how far a repetition goes back is asked when both its numbers are read.
 func slowSpread(p string, most int) (string, api.Errno) {
 	text, size, step := "", uint64(0), 0
 	back := uint64(0)
@@ -95,10 +95,10 @@ func slowSpread(p string, most int) (string, api.Errno) {
 		case step%3 == 1:
 			text += p[:n]
 			p = p[n:]
-		case step%3 == 2 && (n == 0 || n > api.Far || n > uint64(len(text))):
-			return "", api.ErrBad
 		case step%3 == 2:
 			back = n
+		case back == 0 || back > api.Far || back > uint64(len(text)):
+			return "", api.ErrBad
 		case n > left || n+4 > left:
 			return "", api.ErrBad
 		default:

@@ -48,8 +48,39 @@ func TestSpreadNumbers(t *testing.T) {
 		for _, bad := range []string{strings.Repeat("\x80", 9), strings.Repeat("\xff", 9), strings.Repeat("\x80", 9) + "\x00", strings.Repeat("\x80", 30)} {
 			wantError(t, ahead+bad, 99, api.ErrBad)
 		}
-		wantError(t, ahead+told(great), 99, api.ErrBad)
 		wantError(t, ahead+told(great)+"more", 99, api.ErrBad)
+	}
+	for _, ahead := range []string{"", told(8), told(8, 1, "a", 1), told(10, 1, "a", 1, 0)} {
+		wantError(t, ahead+told(great), 99, api.ErrBad)
+	}
+}
+
+// Promise 4.1: that the second number of a repetition can't be read comes ahead of where the first one goes back to.
+func TestSpreadNumbersFirst(t *testing.T) {
+	far := sample.Text(api.Far + 2)
+	for _, c := range []struct {
+		ahead string
+		backs []uint64
+	}{
+		{told(8, 1, "a"), []uint64{0, 2, 3, 127, 128, api.Far, api.Far + 1, 1 << 32, 1 << 63, great}},
+		{told(8, 0), []uint64{0, 1, 2, great}},
+		{told(2, 1, "a"), []uint64{0, 2, great}},
+		{told(20, 1, "a", 1, 0, 0), []uint64{0, 6, 7, great}},
+		{told(20, 1, "a", 1, 0, 2, "bc"), []uint64{0, 8, great}},
+		{told(len(far)+5, len(far), far), []uint64{0, api.Far + 1, api.Far + 2, api.Far + 3, great}},
+	} {
+		for _, back := range c.backs {
+			p := c.ahead + told(back)
+			for n := range 9 {
+				wantError(t, p+strings.Repeat("\x80", n), 1<<20, api.ErrEnd)
+				wantError(t, p+strings.Repeat("\xff", n), 1<<20, api.ErrEnd)
+			}
+			wantError(t, p+strings.Repeat("\x80", 9), 1<<20, api.ErrBad)
+			for _, more := range []uint64{0, 1, 100, great} {
+				wantError(t, p+told(more), 1<<20, api.ErrBad)
+				wantError(t, p+told(more)+"more", 1<<20, api.ErrBad)
+			}
+		}
 	}
 }
 
@@ -109,8 +140,6 @@ func TestSpreadBack(t *testing.T) {
 	wantError(t, told(8, 1, "a", 0, 3), 99, api.ErrBad)
 	wantError(t, told(8, 0, 1, 4), 99, api.ErrBad)
 	wantError(t, told(8, 0, 0, 4), 99, api.ErrBad)
-	wantError(t, told(8, 0, 0), 99, api.ErrBad)
-	wantError(t, told(8, 0, 1), 99, api.ErrBad)
 	for back := 1; back <= 3; back++ {
 		wantSpread(t, told(7, 3, "abc", back, 0), 99, "abc"+strings.Repeat("abc"[3-back:], 4)[:4], api.OK)
 	}
@@ -118,9 +147,6 @@ func TestSpreadBack(t *testing.T) {
 	for _, back := range []uint64{5, 1 << 15, 1<<15 + 1, 1 << 32, 1<<32 + 1, 1 << 63, 1<<63 + 1, great} {
 		wantError(t, told(7, 3, "abc", back, 0), 99, api.ErrBad)
 	}
-	// It is bad as soon as the number is known, though the next one is cut short.
-	wantError(t, told(7, 3, "abc", 4), 99, api.ErrBad)
-	wantError(t, told(7, 3, "abc", 4)+"\x80", 99, api.ErrBad)
 	wantError(t, told(7, 3, "abc", 3), 99, api.ErrEnd)
 	wantError(t, told(7, 3, "abc", 3)+"\x80", 99, api.ErrEnd)
 }
@@ -132,7 +158,7 @@ func TestSpreadFar(t *testing.T) {
 	wantSpread(t, told(size, len(s), s, api.Far, 1), size, s+s[10:15], api.OK)
 	for back := api.Far + 1; back <= api.Far+12; back++ {
 		wantError(t, told(size, len(s), s, back, 1), size, api.ErrBad)
-		wantError(t, told(size, len(s), s, back), size, api.ErrBad)
+		wantError(t, told(size, len(s), s, back), size, api.ErrEnd)
 	}
 	near := sample.Text(api.Far)
 	wantSpread(t, told(api.Far+4, api.Far, near, api.Far, 0), 1<<20, near+near[:4], api.OK)
